@@ -1,19 +1,14 @@
 package machine_test
 
 import (
-	"math"
 	"reflect"
 	"slices"
 	"strings"
 	"testing"
 
 	"emulator/api"
-	"emulator/bus"
 	"emulator/machine"
 )
-
-// farInts has integers far from all sizes and counts, many of which become one of them when they are cut to fewer bits.
-var farInts = []int{math.MinInt, math.MinInt + 1, math.MinInt + 256, -1 << 62, -1 << 40, -1<<40 + 256, -1 << 32, -1<<32 + 1, -1<<32 + 256, -1 << 31, -65536, -65280, -256, 1 << 16, 1<<16 + 1, 1<<16 + 256, 1 << 31, 1 << 32, 1<<32 + 1, 1<<32 + 256, 1 << 40, 1<<40 + 4, 1 << 62, math.MaxInt - 255, math.MaxInt - 1, math.MaxInt}
 
 // built returns the machine that New promises for sizes that are allowed.
 func built(size, lines, sectors int) api.Machine {
@@ -26,26 +21,17 @@ func built(size, lines, sectors int) api.Machine {
 	return m
 }
 
-// tidy returns a machine whose empty lists are nil.
-func tidy(m api.Machine) api.Machine {
-	m.Bad = append([]int(nil), m.Bad...)
-	m.Lines = append([]api.Line(nil), m.Lines...)
-	m.Disk.Drive.Bad = append([]int(nil), m.Disk.Drive.Bad...)
-	m.Tape.Records = append([]string(nil), m.Tape.Records...)
-	return m
-}
-
-// P20.1: New. The other calls of the package are not built yet.
+// P20.1: New. The tests of Right and Copy are in right_test.go and sharing_test.go.
 
 func TestNew(t *testing.T) {
 	for _, size := range []int{256, 320, 4096, 32704, 32768} {
 		for lines := range 5 {
 			for _, sectors := range []int{1, 2, 64, 255, 256} {
 				m, e := machine.New(size, lines, sectors)
-				if e != api.OK || !reflect.DeepEqual(tidy(m), built(size, lines, sectors)) {
+				if e != api.OK || !reflect.DeepEqual(kept(m), built(size, lines, sectors)) {
 					t.Errorf("New(%d, %d, %d) returns another machine, error %d", size, lines, sectors, e)
 				}
-				if !bus.Right(m) {
+				if !machine.Right(m) {
 					t.Errorf("New(%d, %d, %d) is not valid", size, lines, sectors)
 				}
 			}
@@ -94,7 +80,7 @@ func TestNewWithEveryNumber(t *testing.T) {
 func TestNewMachinesShareNothing(t *testing.T) {
 	a, _ := machine.New(256, 2, 3)
 	a.Mem[0], a.Lines[0].RxData, a.Disk.Drive.Sectors[0] = 5, 6, "x"
-	if b, _ := machine.New(256, 2, 3); !reflect.DeepEqual(tidy(b), built(256, 2, 3)) {
+	if b, _ := machine.New(256, 2, 3); !reflect.DeepEqual(kept(b), built(256, 2, 3)) {
 		t.Error("a new machine has what was written to another one")
 	}
 }
